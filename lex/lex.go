@@ -31,14 +31,6 @@ func Scan(text string) (list []api.Token, at int, err api.Errno) {
 	return list, 0, api.OK
 }
 
-// Check returns ErrToken unless scanning the token's Text gives just this token.
-func Check(t api.Token) api.Errno {
-	if !scansAs(t.Text, t) {
-		return api.ErrToken
-	}
-	return api.OK
-}
-
 // Words returns the keywords.
 func Words() []string {
 	return []string{
@@ -50,19 +42,4 @@ func Words() []string {
 // Signs returns the signs.
 func Signs() []string {
 	return []string{"-o", "o-", "=>", "<=", "->", "*", "&", "+", "!", "{", "}", "(", ")", ".", ",", ":", "\\"}
-}
-
-// IsName reports whether s is a plain or a linked name, and no keyword.
-func IsName(s string) bool {
-	return Check(api.Token{Kind: api.TkName, Text: s}) == api.OK
-}
-
-// IsPlain reports whether s is a plain name, and no keyword.
-func IsPlain(s string) bool {
-	return IsName(s) && !strings.Contains(s, "@")
-}
-
-// IsVar reports whether s is a capital name.
-func IsVar(s string) bool {
-	return Check(api.Token{Kind: api.TkVar, Text: s}) == api.OK
 }

@@ -259,6 +259,37 @@ func TestNames(t *testing.T) {
 	}
 }
 
+// P1.1: tokens and names are what is scanned as one token, of any text.
+func TestCheckScanned(t *testing.T) {
+	expectScanned := func(s string) {
+		t.Helper()
+		list, _, err := lex.Scan(s)
+		is := func(kind int) bool { return err == api.OK && slices.Equal(list, []api.Token{tok(kind, s, 0)}) }
+		for kind := -1; kind <= 6; kind++ {
+			if got := lex.Check(tok(kind, s, 3)) == api.OK; got != is(kind) {
+				t.Errorf("Check of %q as %v: %v", s, kind, got)
+			}
+		}
+		small, capital := is(api.TkName), is(api.TkVar)
+		plain := small && !strings.Contains(s, "@")
+		if a, b, c := lex.IsName(s), lex.IsPlain(s), lex.IsVar(s); a != small || b != plain || c != capital {
+			t.Errorf("%q: %v, %v, %v; expected %v, %v, %v", s, a, b, c, small, plain, capital)
+		}
+	}
+	for s := range shortTexts("aozAZ09_'@- %\n>=<.", 4) {
+		expectScanned(s)
+	}
+	for c := range 256 {
+		b := string([]byte{byte(c)})
+		for _, s := range []string{"", "a", "A", "a@", "a@a", "a@a@a", "al", "-", "mod", "o"} {
+			expectScanned(s + b)
+			expectScanned(b + s)
+			expectScanned(s + b + "l")
+			expectScanned(s + b + "e")
+		}
+	}
+}
+
 // P1.1: lists are the same by Kinds and Texts, of whatever values.
 func TestSame(t *testing.T) {
 	a, b := name("a"), tok(api.TkName, "a", 5)

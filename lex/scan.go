@@ -11,7 +11,7 @@ import (
 const (
 	smallLetters   = "abcdefghijklmnopqrstuvwxyz"
 	capitalLetters = "ABCDEFGHIJKLMNOPQRSTUVWXYZ"
-	nameExtras     = "0123456789_'"
+	nameBytes      = smallLetters + capitalLetters + "0123456789_'"
 	signBytes      = "*&+!{}().,:\\"
 )
 
@@ -47,7 +47,7 @@ func tokens(text string) iter.Seq[api.Token] {
 // finder returns a closure that finds the token which begins at an offset of the text, and refuses the text if there is none.
 func finder(text string) func(at int) api.Token {
 	isSmall, isCapital, isSign := class(smallLetters), class(capitalLetters), class(signBytes)
-	inName := class(smallLetters + capitalLetters + nameExtras)
+	inName := class(nameBytes)
 	words := Words()
 
 	token := func(kind, at, end int) api.Token {
